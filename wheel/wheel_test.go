@@ -38,7 +38,7 @@ func many(n, from, step int) []api.Timer {
 	return out
 }
 
-// wrong is wheels that are not valid: each is a valid one with one thing wrong.
+// wrong is wheels that are not valid: for each thing that D1 asks, some that break it, most of them in nothing else.
 func wrong() map[string]api.Wheel {
 	return map[string]api.Wheel{
 		"Now of -1":                       {Now: -1},
